@@ -1,4 +1,4 @@
-// Package piece has what the layers share that tell of pieces of objects: what a digest's digits are, pieces in memory of their own, and their text.
+// Package piece has what the layers share that tell of pieces of objects: what a digest's digits are, pieces, versions and parts in memory of their own, and pieces' text.
 package piece
 
 import (
@@ -29,6 +29,33 @@ func Apart(l []api.Piece) []api.Piece {
 	var own []api.Piece
 	for _, p := range l {
 		own = append(own, api.Piece{ID: strings.Clone(p.ID), Size: p.Size})
+	}
+	return own
+}
+
+// ApartVersion is the same version, in memory of its own.
+func ApartVersion(v api.Version) api.Version {
+	v.Sum = strings.Clone(v.Sum)
+	v.Pieces = Apart(v.Pieces)
+	return v
+}
+
+// ApartVersions are the same versions, in memory of their own.
+func ApartVersions(l []api.Version) []api.Version {
+	var own []api.Version
+	for _, v := range l {
+		own = append(own, ApartVersion(v))
+	}
+	return own
+}
+
+// ApartParts are the same parts, in memory of their own.
+func ApartParts(l []api.Part) []api.Part {
+	var own []api.Part
+	for _, p := range l {
+		p.Sum = strings.Clone(p.Sum)
+		p.Pieces = Apart(p.Pieces)
+		own = append(own, p)
 	}
 	return own
 }

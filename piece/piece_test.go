@@ -1,6 +1,7 @@
 package piece_test
 
 import (
+	"reflect"
 	"slices"
 	"strings"
 	"testing"
@@ -55,6 +56,31 @@ func TestApart(t *testing.T) {
 	}
 	if len(piece.Apart(nil)) != 0 || len(piece.IDs(nil)) != 0 {
 		t.Errorf("of nothing: %v, %q", piece.Apart(nil), piece.IDs(nil))
+	}
+}
+
+// Versions and parts are copied, with their pieces, in memory of their own; markers, too.
+func TestApartVersionsAndParts(t *testing.T) {
+	sum := rep("c", 64)
+	versions := []api.Version{{ID: 9, Size: 3, Sum: sum, Pieces: some()}, {ID: 7, Mark: true}, {ID: 5, Sum: sum}}
+	parts := []api.Part{{N: 1, Size: 3, Sum: sum, Pieces: some()}, {N: 2, Sum: sum}}
+	ownVersions, ownParts := piece.ApartVersions(versions), piece.ApartParts(parts)
+	one := piece.ApartVersion(versions[0])
+	if !reflect.DeepEqual(ownVersions, versions) || !reflect.DeepEqual(ownParts, parts) || !reflect.DeepEqual(one, versions[0]) {
+		t.Errorf("ApartVersions: %v; ApartParts: %v; ApartVersion: %v", ownVersions, ownParts, one)
+	}
+	for _, text := range []string{ownVersions[0].Sum, ownVersions[2].Sum, ownParts[0].Sum, ownParts[1].Sum, one.Sum} {
+		if unsafe.StringData(text) == unsafe.StringData(sum) {
+			t.Errorf("a Sum is one memory")
+		}
+	}
+	ownVersions[0].Pieces[0].Size, ownParts[0].Pieces[0].Size, one.Pieces[0].Size = 7, 8, 9
+	ownVersions[1], ownParts[1] = api.Version{}, api.Part{}
+	if !slices.Equal(versions[0].Pieces, some()) || !slices.Equal(parts[0].Pieces, some()) || !versions[1].Mark || parts[1].N != 2 {
+		t.Errorf("the versions are %v, the parts %v", versions, parts)
+	}
+	if len(piece.ApartVersions(nil)) != 0 || len(piece.ApartParts(nil)) != 0 {
+		t.Errorf("of nothing: %v, %v", piece.ApartVersions(nil), piece.ApartParts(nil))
 	}
 }
 
